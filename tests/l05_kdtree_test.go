@@ -670,22 +670,27 @@ func TestKnotsTooManyOrTooFew(t *testing.T) {
 	}
 }
 
+// noPlaces are lists that are no points, or not of n numbers.
+func noPlaces(n int) [][]int64 {
+	all := noPoints()
+	for other := range 7 {
+		if other != n {
+			all = append(all, make([]int64, other))
+		}
+	}
+	for i := range n {
+		for _, x := range []int64{-1001, 1001, 1 << 32, least, greatest} {
+			all = append(all, with(make([]int64, n), i, x))
+		}
+	}
+	return all
+}
+
 func TestKnotsWrongPlace(t *testing.T) {
 	for n := 1; n <= 4; n++ {
 		for _, count := range []int{1, 2, 7, impl.MaxMarks} {
 			list := impl.Halved(someMarks(walkOf(uint64(n)), count, n, 9))
-			points := noPoints()
-			for other := range 7 {
-				if other != n {
-					points = append(points, make([]int64, other))
-				}
-			}
-			for i := range n {
-				for _, x := range []int64{-1001, 1001, 1 << 32, least, greatest} {
-					points = append(points, with(make([]int64, n), i, x))
-				}
-			}
-			for _, q := range points {
+			for _, q := range noPlaces(n) {
 				if g := impl.Looked(list, q); g != -1 {
 					t.Errorf("Looked(%v, %v) = %d", list, q, g)
 				}
