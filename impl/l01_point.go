@@ -40,12 +40,15 @@ func measured(a, b point, by func(a, b point) int64, refused int64) int64 {
 	return by(a, b)
 }
 
-func (p point) ok() bool {
+func (p point) ok() bool { return p.keepsTo(-MaxAt, MaxAt) }
+
+// keepsTo asks for as many numbers as a point has, each from low to high.
+func (p point) keepsTo(low, high int64) bool {
 	if len(p) < 1 || len(p) > maxNumbers {
 		return false
 	}
 	for _, x := range p {
-		if x < -MaxAt || x > MaxAt {
+		if x < low || x > high {
 			return false
 		}
 	}
